@@ -264,3 +264,9 @@ func TestNoCallPanics(t *testing.T) {
 		}
 	}
 }
+
+func TestStatuses(t *testing.T) {
+	if OK != 0 || Throw != 1 || Hard != 2 {
+		t.Errorf("the statuses are %d, %d, %d", OK, Throw, Hard)
+	}
+}
