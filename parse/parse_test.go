@@ -399,7 +399,7 @@ func (w *writer) key() string {
 	if w.Intn(4) == 0 {
 		return "[" + w.assign() + "]"
 	}
-	return w.pick("a", "if", "'x y'", "\"\\u0022\"", "7", "constructor", "static", "of")
+	return w.pick("a", "if", "'1a'", "'7'", "'a.b'", "'@'", "'['", "'`'", "'{'", "'a/'", "'a:'", "''", "'é'", "'"+strings.Repeat("n", 60)+"'", "'"+strings.Repeat("n", 61)+"'", "'x y'", "\"\\u0022\"", "7", "constructor", "static", "of")
 }
 
 func (w *writer) item() string {

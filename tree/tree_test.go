@@ -12,6 +12,10 @@ func name(s string) *Node { return Make(Name, 0, s) }
 
 func number(n int64) *Node { return &Node{Kind: Number, N: n} }
 
+func object(key string) *Node {
+	return Make(Object, 0, "", Make(Prop, 0, "", Make(String, 0, text.Of(key)), name("a")))
+}
+
 func TestMake(t *testing.T) {
 	a, b := name("a"), name("b")
 	kids := []*Node{a, b}
@@ -105,7 +109,8 @@ func TestPrint(t *testing.T) {
 		{Make(Return, 0, ""), "return;"}, {Make(Return, 0, "", name("a")), "return a;"}, {Make(Return, 0, "", sum), "return (a + b);"},
 		{Make(Break, 0, ""), "break;"}, {Make(Break, 0, "label"), "break label;"},
 		{Make(Again, 0, ""), "continue;"}, {Make(Again, 0, "label"), "continue label;"},
-		{number(12), "12"}, {Make(String, 0, text.Of("a\n")), `"a\u000a"`},
+		{number(12), "12"}, {object("az_$AZ09"), "{az_$AZ09: a}"}, {object("0a"), `{"0a": a}`}, {object(""), `{"": a}`}, {object("if"), "{if: a}"},
+		{object(strings.Repeat("n", 61)), `{"` + strings.Repeat("n", 61) + `": a}`}, {object(strings.Repeat("n", 60)), "{" + strings.Repeat("n", 60) + ": a}"}, {Make(String, 0, text.Of("a\n")), `"a\u000a"`},
 	} {
 		if got := Print(c.n); got != c.want {
 			t.Errorf("Print = %q, not %q", got, c.want)
