@@ -273,6 +273,10 @@ func TestArrays(t *testing.T) {
 			t.Errorf("Define of an element with flags %d", flags)
 		}
 	}
+	one := array(h)
+	if !one.Define(str("0"), whole(5), All) || !one.Define(str("1"), whole(6), All) || !slices.Equal(one.Elems, []api.Val{whole(5), whole(6)}) {
+		t.Errorf("elements %v", one.Elems)
+	}
 	if !o.Define(str("5"), whole(6), All) || !o.Define(str("0"), whole(7), All) {
 		t.Error("Define of elements")
 	}
@@ -492,7 +496,7 @@ func TestNil(t *testing.T) {
 	if _, _, ok := h.Find(1, none); ok || h.Put(1, none, none) || h.Chain(1, 2) || !h.Chain(1, 0) {
 		t.Error("a nil heap has an object")
 	}
-	if _, _, ok := o.Own(none); ok || o.Define(none, none, 0) || !o.Delete(none) || o.Keys() != nil {
+	if _, f, ok := o.Own(none); f != 0 || ok || o.Define(none, none, 0) || !o.Delete(none) || o.Keys() != nil {
 		t.Error("nil has a property")
 	}
 }
