@@ -1,0 +1,15 @@
+package promise_test
+
+import "testing"
+
+// The expected lines are what another implementation of the language prints.
+func TestPrograms(t *testing.T) {
+	for _, c := range [][2]string{
+		{`Promise.resolve(1).then(print); print(2); queueMicrotask(() => print("micro")); new Promise((y, n) => { print("exec"); y(5); y(6); n(7); }).then((v) => { print("then", v); return v + 1; }).then((v) => { print("then2", v); throw "err"; }).catch((e) => { print("catch", e); return "c"; }).then(print); Promise.reject("r").catch(print); Promise.reject("r2").then(print, (e) => print("onrej", e)); Promise.reject("pass").then(print).then(print).catch((e) => print("passed", e)); print("end");`, `2; exec; end; 1; micro; then 5; r; onrej r2; then2 6; catch err; passed pass; c`},
+		{`Promise.resolve().then(() => print(1)).then(() => print(3)).then(() => print(5)); Promise.resolve().then(() => print(2)).then(() => print(4)).then(() => print(6)); let p = Promise.resolve(9); print(Promise.resolve(p) === p); new Promise((y) => y(p)).then((v) => print("adopt", v)); new Promise((y) => y({then(a, b) { print("thenable"); a("tv"); b("no"); throw "ignored"; }})).then(print); new Promise((y) => y({then: 5})).then((o) => print(o.then)); new Promise((y) => y({then() { throw "thrown in then"; }})).catch(print); let q = new Promise((y) => queueMicrotask(() => y(q))); q.catch((e) => print(e instanceof TypeError)); Promise.resolve({then(a) { a(Promise.resolve("nested")); }}).then(print);`, `true; 1; 2; thenable; 5; 3; 4; tv; thrown in then; true; 5; 6; adopt 9; nested`},
+		{`new Promise(() => { throw "exec threw"; }).catch(print); new Promise((y) => { y(1); throw "late"; }).then(print); for (const f of [() => Promise(() => 1), () => new Promise(), () => new Promise(1), () => Promise.prototype.then.call({}), () => Promise.prototype.catch.call(1), () => queueMicrotask(), () => queueMicrotask({}), () => Promise.resolve.call(1), () => Promise.resolve.call(undefined, 1)]) { try { f(); print("no"); } catch (e) { print(e instanceof TypeError); } } print(Promise.name, Promise.length, Promise.prototype.then.length, Promise.prototype.catch.length, Promise.resolve.length, Promise.reject.name, queueMicrotask.name, queueMicrotask.length); class P extends Promise {} print(new P(() => 1) instanceof P, P.prototype.then === Promise.prototype.then); new P((y) => y(3)).then(print); Promise.prototype.catch.call({then(a, b) { print(a, typeof b); }}, () => 1);`, `true; true; true; true; true; true; true; true; true; Promise 1 2 1 1 reject queueMicrotask 1; true true; undefined function; exec threw; 1; 3`},
+		{`let order = []; function* ticker(n) { for (let i = 0; i < n; i++) yield i; } function run(gen, name) { let i = gen; function step(v) { let r = i.next(v); if (!r.done) Promise.resolve(r.value).then((x) => { print(name, x); step(x); }); else print(name, "done"); } step(); } run(ticker(3), "A"); run(ticker(2), "B"); print("sync end");`, `sync end; A 0; B 0; A 1; B 1; B done; A 2; A done`},
+	} {
+		check(t, c[0], c[1])
+	}
+}
