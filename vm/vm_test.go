@@ -49,6 +49,36 @@ func TestWhatIsDifferent(t *testing.T) {
 	}
 }
 
+// What is on its way out of something in progress isn't collected.
+func TestValuesOnTheirWay(t *testing.T) {
+	for _, c := range [][2]string{
+		{`function f() { try { return {a: 1}; } finally { (() => 1)(); } } print(f().a);`, "1"}, {`function f() { try { try { return {a: 2}; } finally { try { throw {a: 3}; } finally { (() => 1)(); } } } catch (e) { return e; } } print(f().a);`, "3"}, {`function f() { for (const x of {[iterator]() { return {next() { return {done: false}; }, return() { (() => 1)(); return {}; }}; }}) return {a: 4}; } print(f().a);`, "4"}, {`try { for (const x of {[iterator]() { return {next() { return {done: false}; }, return() { (() => 1)(); return {}; }}; }}) throw {a: 5}; } catch (e) { print(e.a); }`, "5"},
+		{`function* g() { try { yield; } finally { (() => 1)(); yield {a: 6}; } } let i = g(); i.next(); print(i.return({a: 7}).value.a, i.next().value.a);`, "6 7"}, {`print(({a: 8}).a + (() => 1)(), [{a: 9}, (() => 1)()][0].a);`, "9 9"}, {`function* g() { yield* [1]; let x = yield 2; print(x); yield* [3]; x = yield 4; print(x); } let i = g(); i.next(); i.next(); i.next("a"); i.next(); i.next("b");`, "a; b"}, {`let {0: a, ...r} = "abc"; print(a, r[1], r[2], r[0]); let {[1]: b, ...q} = {0: "x", 1: "y", 2: "z"}; print(b, q[0], q[1], q[2]);`, "a b c undefined; y x undefined z"},
+		{`let a = []; a.length = 1000; class A { constructor(...x) { print(x.length); } } new A(...a); construct(A, ...a.length ? [1] : []);`, "1000; 1"}, {`function* g() { yield* {[iterator]() { return {next() { (() => 1)(); return {done: false, value: {a: 1}}; }}; }}; } for (const x of g()) { (() => 1)(); print(x.a); break; }`, "1"}, {`class A { constructor() { (() => 1)(); this.a = 1; } } class B extends A { constructor() { super({}); (() => 1)(); } } print(new B().a);`, "1"}, {`let f = ((o) => () => o)({a: 1}); (() => 1)(); print(f().a); let [x = (() => ({a: 2}))(), y = (() => 1)()] = []; print(x.a, y);`, "1; 2 1"},
+	} {
+		check(t, c[0], c[1])
+	}
+}
+
+// A run may have just as many cells as Cells says.
+func TestCellsAtTheBound(t *testing.T) {
+	base := world(wide, api.Script{}).Count()
+	for extra, want := range map[int]string{0: full, 1: full, 2: "", 3: ""} {
+		m, v, end := run(t, "(() => 1)();", api.Bounds{Fuel: 99, Depth: 9, Cells: base + extra}, api.Script{})
+		if got := outcome(m, v, end); got != want || want == "" && m.Swept != 0 {
+			t.Errorf("with %d cells more: %s, %d collections", extra, got, m.Swept)
+		}
+	}
+	m := vm.New(host{}, wide, api.Script{})
+	n := &heap.Obj{}
+	for range 2 * api.MaxCells {
+		m.Heap.Arena.Make(n)
+	}
+	if !m.Spend(1) || m.Array(make([]api.Val, api.MaxArray)) == (api.Val{}) || m.Spend(1) {
+		t.Error("the greatest number of cells")
+	}
+}
+
 func TestBounds(t *testing.T) {
 	for _, c := range []struct {
 		s    string
