@@ -195,7 +195,8 @@ func (m *Machine) propertyOp(f *Frame, x code.Ins) completion {
 	return to(m.superProperty(f, f.constant(x)))
 }
 
-// superProperty reads a property of the prototype of the object whose method is executed.
+// superProperty reads a property of the prototype of the object whose method is executed. It calls no
+// function, so a getter is read like any other value.
 func (m *Machine) superProperty(f *Frame, k api.Val) (api.Val, int) {
 	home := m.Obj(f.home)
 	if f.this.K == api.Empty {
@@ -204,7 +205,8 @@ func (m *Machine) superProperty(f *Frame, k api.Val) (api.Val, int) {
 	if home == nil || home.Proto == 0 {
 		return m.Type("")
 	}
-	return m.getFrom(home.Proto, k, f.this)
+	v, _, _ := m.Find(home.Proto, k)
+	return v, Fine
 }
 
 func (m *Machine) operatorOp(f *Frame, x code.Ins) completion {
