@@ -139,13 +139,13 @@ func (m *Machine) Construct(fn api.Val, args []api.Val, target api.Val) (api.Val
 		return m.Hard()
 	}
 	o := m.Of(fn)
-	code, ok := o.Fn.(*code.Func)
+	maker, ok := o.Fn.(*code.Func)
 	if !ok {
 		return m.callNative(fn, Call{Fn: o, Args: args, Target: target})
 	}
 	f := m.frame(fn, api.Val{K: api.Empty}, args)
 	f.target = target
-	if !code.Heir {
+	if !maker.Heir {
 		r, _ := m.create(heap.Plain, m.From(target, ObjectProto))
 		f.this = value.Object(r)
 	}
@@ -153,7 +153,7 @@ func (m *Machine) Construct(fn api.Val, args []api.Val, target api.Val) (api.Val
 	switch {
 	case end != Fine || value.IsObj(v):
 		return v, end
-	case code.Heir && v != (api.Val{}):
+	case maker.Heir && v != (api.Val{}):
 		return m.Type("")
 	case f.this.K == api.Empty:
 		return m.Fail(ReferenceProto, "")

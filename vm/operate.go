@@ -76,7 +76,7 @@ func (m *Machine) super(f *Frame, args []api.Val) completion {
 
 // class pushes a constructor and the prototype of its instances.
 func (m *Machine) class(f *Frame, x code.Ins) completion {
-	over, proto := m.proto(FunctionProto), m.proto(ObjectProto)
+	extended, proto := m.proto(FunctionProto), m.proto(ObjectProto)
 	if x.B != 0 {
 		parent := f.pop()
 		if parent.K == api.Null {
@@ -86,13 +86,13 @@ func (m *Machine) class(f *Frame, x code.Ins) completion {
 			if end != Fine {
 				return m.outcome(f, above, end)
 			}
-			over, proto = value.Ref(parent), value.Ref(above)
+			extended, proto = value.Ref(parent), value.Ref(above)
 		}
 	}
 	fn := m.Closure(m.maker(f.f, x), f.env)
 	r, p := m.create(heap.Plain, proto)
 	if o := m.Of(fn); o != nil {
-		o.Proto, o.Home = over, r
+		o.Proto, o.Home = extended, r
 		m.Own(o, "prototype", value.Object(r), 0)
 	}
 	m.Own(p, "constructor", fn, heap.Hidden)
