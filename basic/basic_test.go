@@ -69,7 +69,7 @@ func TestAssignAndHasOwn(t *testing.T) {
 	checkAll(t, [][2]string{
 		{`let o = {a: 1}; print(Object.assign(o, {b: 2}, [3], "xy", null, undefined, 4, true, Symbol()) === o, Object.keys(o), o[0], o[1]);`, "true [0, 1, a, b] x y"}, {`Object.assign(Object.freeze({}), {a: 1});`, " ! TypeError"}, {`let a = []; Object.assign(a, {1: 5}); print(a); Object.assign(a, {"007": 1});`, "[, 5]" + hard}, {`let a = [1]; Object.assign(a, {length: 0}); print(a); Object.assign(a, {length: -1});`, "[] ! TypeError"}, {`print(Object.keys(Object.assign({}, Object.create({a: 1}), new Error("m"))));`, "[]"},
 		{`let s = "ab"; for (let i = 0; i < 13; i++) s += s; let o = Object.assign({}, s); print(o[16383], o[16384]); Object.keys(o);`, "b undefined" + hard},
-		{`let o = {a: 1, [Symbol.iterator]: 2}; print(o.hasOwnProperty("a"), o.hasOwnProperty(Symbol.iterator), o.hasOwnProperty("b"), o.hasOwnProperty(), [1].hasOwnProperty(0), [, 1].hasOwnProperty(0), "ab".hasOwnProperty(1), "ab".hasOwnProperty(2), "ab".hasOwnProperty("length"), "ab".hasOwnProperty("01"), (1).hasOwnProperty("a"));`, "true true false false true false true false true false false"}, {`({}).hasOwnProperty({});`, hard}, {`let h = ({}).hasOwnProperty; h("a");`, " ! TypeError"}, {`let h = ({}).hasOwnProperty; h({});`, hard},
+		{`let o = {a: 1, [Symbol.iterator]: 2}; print(o.hasOwnProperty("a"), o.hasOwnProperty(Symbol.iterator), o.hasOwnProperty("b"), o.hasOwnProperty(), [1].hasOwnProperty(0), [, 1].hasOwnProperty(0), "ab".hasOwnProperty(0), "ab".hasOwnProperty(2), "ab".hasOwnProperty("length"), "ab".hasOwnProperty("01"), (1).hasOwnProperty("a"));`, "true true false false true false true false true false false"}, {`({}).hasOwnProperty({});`, hard}, {`let h = ({}).hasOwnProperty; h("a");`, " ! TypeError"}, {`let h = ({}).hasOwnProperty; h({});`, hard},
 	})
 }
 
@@ -95,7 +95,7 @@ func TestFunctions(t *testing.T) {
 		{`function f(...a) { return [this, a]; } print(f.call(1, 2), f.call(), f.apply(1, [2, , 3]), f.apply(1), f.apply(1, null), f.bind(1, 2)(3), f.bind()(), f.bind(1).bind(2, 3).call(4, 5));`, "[1, [2]] [undefined, []] [1, [2, undefined, 3]] [1, []] [1, []] [1, [2, 3]] [undefined, []] [1, [3, 5]]"}, {`print.apply(1, {});`, hard}, {`print.apply(1, 2);`, " ! TypeError"}, {`print.apply(1, "ab");`, " ! TypeError"}, {`print.call.call(1);`, " ! TypeError"}, {`print.bind.call({});`, " ! TypeError"}, {`print.apply.call(undefined);`, " ! TypeError"},
 		{`let a = []; a.length = 1001; print.apply(1, a);`, hard}, {`let a = []; a.length = 600; let f = print.bind(1, ...a); f(...a);`, hard}, {`function f(a, b, c) {} print(f.bind(1, 2).length, f.bind(1, 2, 3, 4, 5).length, f.bind().name, f.bind().bind().name, (class A {}).bind().name, f.bind(1).hasOwnProperty("prototype"));`, "2 0 bound f bound bound f bound A false"},
 		{`class A { constructor(...a) { this.a = a; } } let B = A.bind(0, 1); let b = new B(2); print(b.a, b instanceof A, b instanceof B, typeof B); B();`, "[1, 2] true true function ! TypeError"}, {`new (print.bind())();`, " ! TypeError"}, {`class A {} let B = A.bind(); B.prototype = A.prototype; class C extends B {} print(new C() instanceof C);`, "true"}, {`print(1 instanceof (() => 1).bind());`, "false"}, {`({}) instanceof (() => 1).bind();`, " ! TypeError"},
-		{`let f = Object.defineProperty(() => 1, "name", {value: 5}); print(f.bind().name === "bound ", f); let g = Object.defineProperty(() => 1, "length", {value: Infinity}); print(g.bind(1).length); let h = Object.defineProperty(() => 1, "length", {value: -Infinity}); print(h.bind(1).length); delete g.length; print(g.bind().length);`, "true function 5; Infinity; 0; 0"},
+		{`let f = (a, b) => 1; print(f.bind(1, 2, 3).length, f.bind(1, 2, 3, 4).length); delete f.length; print(f.bind().length); Object.setPrototypeOf(f, {length: 7, bind: f.bind}); print(f.bind().length); new (print.bind())();`, "0 0; 0; 0 ! TypeError"}, {`let f = Object.defineProperty(() => 1, "name", {value: 5}); print(f.bind().name === "bound ", f); let g = Object.defineProperty(() => 1, "length", {value: Infinity}); print(g.bind(1).length); let h = Object.defineProperty(() => 1, "length", {value: -Infinity}); print(h.bind(1).length); delete g.length; print(g.bind().length);`, "true function 5; Infinity; 0; 0"},
 		{`function* g() { let x = yield 1; print(x); try { yield 2; } finally { print("f"); } } let i = g(); print(i.next(9).value, i.next(8).value, i.return(7).value, i.next().done, i[Symbol.iterator]() === i, i);`, "8; f; 1 2 7 true true [Generator]"}, {`function* g() { yield 1; } g().throw(new Error("t"));`, " ! Error: t"}, {`let n = (function* () {})().next; n();`, " ! TypeError"}, {`let n = (function* () {})(); n.return.call({});`, " ! TypeError"},
 	})
 }
@@ -122,13 +122,13 @@ func TestWorld(t *testing.T) {
 	}
 	for _, proto := range []int{vm.StringProto, vm.IteratorProto} {
 		f, flags, ok := m.Obj(m.Protos[proto]).Own(m.Iterator)
-		if !ok || flags != heap.Hidden {
+		if !ok || flags != heap.Hidden || m.Maker(f) {
 			t.Errorf("the iterator of %d: %v, %d", proto, f, flags)
 		}
 		checkFunction(t, m, f, "[Symbol.iterator]", 0)
 	}
 	get, flags, _ := m.Obj(m.Protos[vm.SymbolProto]).Own(text.Val("description"))
-	if flags != heap.Getter|heap.Configurable {
+	if flags != heap.Getter|heap.Configurable || m.Maker(get) {
 		t.Errorf("the flags of description are %d", flags)
 	}
 	checkFunction(t, m, get, "get description", 0)
@@ -149,8 +149,8 @@ func checkFunction(t *testing.T, m *vm.Machine, f api.Val, name string, n int) {
 func checkMethod(t *testing.T, m *vm.Machine, of api.Val, name string, n int) {
 	t.Helper()
 	f, flags, ok := m.Of(of).Own(text.Val(name))
-	if !ok || flags != heap.Hidden {
-		t.Errorf("%s: flags %d", name, flags)
+	if !ok || flags != heap.Hidden || m.Maker(f) {
+		t.Errorf("%s: flags %d, a constructor: %v", name, flags, m.Maker(f))
 	}
 	checkFunction(t, m, f, name, n)
 }

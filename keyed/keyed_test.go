@@ -84,7 +84,7 @@ func TestWorld(t *testing.T) {
 			checkFunction(t, m, f, w[:len(w)-1], int(w[len(w)-1]-'0'))
 		}
 		get, flags, _ := m.Obj(m.Protos[c.proto]).Own(text.Val("size"))
-		if flags != heap.Getter|heap.Configurable {
+		if flags != heap.Getter|heap.Configurable || m.Maker(get) {
 			t.Errorf("the flags of size are %d", flags)
 		}
 		checkFunction(t, m, get, "get size", 0)

@@ -362,15 +362,15 @@ func TestWorlds(t *testing.T) {
 	}
 	for k, id := range map[string]int{"a": idList, "bc": idList + 1} {
 		v, flags, ok := proto.Own(text.Val(k))
-		if n, _, _ := m.Of(v).Own(text.Val("name")); !ok || flags != heap.Hidden || m.Of(v).Kind != id || n != text.Val(k) {
+		if n, _, _ := m.Of(v).Own(text.Val("name")); !ok || m.Maker(v) || flags != heap.Hidden || m.Of(v).Kind != id || n != text.Val(k) {
 			t.Errorf("%s is %v, %d", k, v, flags)
 		}
 	}
 	if n, _ := m.Member(mustOwn(proto, "bc"), "length"); n != whole(3) {
 		t.Errorf("the length is %v", n)
 	}
-	if of := m.Of(mustOwn(m.Of(f), "of")); of.Kind != idList {
-		t.Errorf("the static function is %d", of.Kind)
+	if of := mustOwn(m.Of(f), "of"); m.Of(of).Kind != idList || m.Maker(of) {
+		t.Errorf("the static function is %d", m.Of(of).Kind)
 	}
 	if m.From(f, vm.SetProto) != m.Protos[vm.MapProto] || m.From(m.Object(), vm.SetProto) != m.Protos[vm.SetProto] || m.From(api.Val{}, vm.SetProto) != m.Protos[vm.SetProto] {
 		t.Error("From")
