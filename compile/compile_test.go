@@ -125,6 +125,9 @@ func TestGlobals(t *testing.T) {
 		t.Errorf("the empty program: %s", f.Show())
 	}
 	n, _ := early.Source("print(a);")
+	if got := find(Compile(n, []string{"x", "a", "x", "print"}), code.Get); !slices.Equal(got, []code.Ins{{Op: code.Get, A: 1, B: 3}, {Op: code.Get, A: 1, B: 1}}) {
+		t.Errorf("with a name that is there twice: %v", got)
+	}
 	if f = Compile(n, nil); len(find(f, code.Unknown)) != 2 {
 		t.Errorf("without globals: %s", f.Show())
 	}

@@ -82,7 +82,7 @@ func (m *Machine) enter(f *Frame, start func() completion) (api.Val, int) {
 		return api.Val{}, Over
 	}
 	if f.env == 0 {
-		f.env = m.Scope(f.f.Bindings, m.Of(f.fn).Env)
+		f.env = m.scope(f.f.Bindings, m.Of(f.fn).Env)
 	}
 	return m.execute(f, start())
 }
@@ -175,7 +175,7 @@ func (m *Machine) Run(f *code.Func) (v api.Val, end int) {
 		m.unpin(pins)
 		v, end = m.Hard()
 	}()
-	program := &Frame{f: f, env: m.Scope(f.Bindings, m.World)}
+	program := &Frame{f: f, env: m.scope(f.Bindings, m.World)}
 	m.frames = append(m.frames, program)
 	v, end = m.execute(program, completion{})
 	m.frames = m.frames[:frames]

@@ -128,6 +128,9 @@ func (m *Machine) binding(f *Frame, x code.Ins) *api.Val {
 	return &e.Vals[x.B]
 }
 
+// scope makes an environment; no source has more names than bytes, so other code may not want more.
+func (m *Machine) scope(n, up int) int { return m.Scope(min(n, api.MaxSource), up) }
+
 func (m *Machine) scopeOp(f *Frame, x code.Ins) completion {
 	switch x.Op {
 	case code.Get, code.Set, code.Init:
@@ -137,7 +140,7 @@ func (m *Machine) scopeOp(f *Frame, x code.Ins) completion {
 	case code.Locked:
 		return m.outcomeOf(f)(m.Type(""))
 	case code.Enter:
-		f.env = m.Scope(x.A, f.env)
+		f.env = m.scope(x.A, f.env)
 	case code.Leave:
 		if e := m.Env(f.env); e != nil {
 			f.env = e.Up

@@ -123,6 +123,7 @@ func (m *Machine) Values(v api.Val, w *Walk) func(yield func(api.Val) bool) {
 		w = &Walk{}
 	}
 	return func(yield func(api.Val) bool) {
+		w.Fail(api.Val{}, Fine)
 		if m == nil {
 			w.Fail(api.Val{}, Over)
 			return
