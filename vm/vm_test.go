@@ -420,6 +420,64 @@ func TestGoOn(t *testing.T) {
 	}
 }
 
+func TestGoOnOfTheMachine(t *testing.T) {
+	m, _, _ := run(t, `print.f = function* () { try { yield 1; yield 2; } catch (e) { yield e; } return 3; };`, wide, api.Script{All: true})
+	print := m.Env(m.World).Vals[3]
+	f, _ := m.Member(print, "f")
+	type row struct {
+		how, x, v int
+		done      bool
+		end       int
+	}
+	undef := -99
+	for _, rows := range [][]row{
+		{{vm.GoNext, 7, 1, false, vm.Fine}, {vm.GoNext, 7, 2, false, vm.Fine}, {vm.GoNext, 7, 3, true, vm.Fine}, {vm.GoNext, 7, undef, true, vm.Fine}, {vm.GoReturn, 7, 7, true, vm.Fine}, {vm.GoThrow, 7, 7, false, vm.Threw}},
+		{{vm.GoNext, 7, 1, false, vm.Fine}, {vm.GoThrow, 8, 8, false, vm.Fine}, {vm.GoThrow, 9, 9, false, vm.Threw}, {vm.GoNext, 7, undef, true, vm.Fine}}, {{vm.GoReturn, 7, 7, true, vm.Fine}, {vm.GoNext, 7, undef, true, vm.Fine}}, {{vm.GoThrow, 7, 7, false, vm.Threw}, {vm.GoNext, 7, undef, true, vm.Fine}}, {{vm.GoNext, 7, 1, false, vm.Fine}, {vm.GoReturn, 5, 5, true, vm.Fine}, {vm.GoThrow, 7, 7, false, vm.Threw}},
+	} {
+		g, _ := m.Call(f, api.Val{}, nil)
+		m.Hold(g)
+		for i, r := range rows {
+			want := whole(r.v)
+			if r.v == undef {
+				want = api.Val{}
+			}
+			if v, done, end := m.GoOn(g, r.how, whole(r.x)); v != want || done != r.done || end != r.end {
+				t.Errorf("%v: the result %d is %v, %v, %d", rows, i, v, done, end)
+			}
+		}
+		m.Release(1)
+	}
+	m.Hard()
+	g, _ := m.Call(f, api.Val{}, nil)
+	if v, done, end := m.GoOn(g, vm.GoNext, api.Val{}); v != (api.Val{}) && end != vm.Threw || done || end == vm.Fine {
+		t.Errorf("after the end: %v, %v, %d", v, done, end)
+	}
+}
+
+// A class whose code names no constructor has one that does nothing, or passes on its arguments.
+func TestClassWithoutCode(t *testing.T) {
+	m := world(wide, api.Script{})
+	class := func(before []code.Ins, b int) *code.Func {
+		ins := append(before, code.Ins{Op: code.Class, A: -1, B: b}, code.Ins{Op: code.Pop}, code.Ins{Op: code.Return})
+		return &code.Func{Ins: ins, Consts: []api.Val{whole(5)}}
+	}
+	plain, end := m.Run(class(nil, 0))
+	if v, how := m.Construct(plain, nil, plain); end != vm.Fine || how != vm.Fine || m.Class(v) != heap.Plain {
+		t.Errorf("Construct = %v, %d", v, how)
+	}
+	if v, how := m.Call(plain, api.Val{}, nil); how != vm.Threw {
+		t.Errorf("Call = %v, %d", v, how)
+	}
+	heir, _ := m.Run(class([]code.Ins{{Op: code.Get, A: 1, B: 5}}, 1))
+	if v, how := m.Construct(heir, []api.Val{whole(1)}, heir); how != vm.Threw || m.Of(v).Proto != m.Protos[vm.TypeProto] {
+		t.Errorf("Construct = %v, %d", v, how)
+	}
+	none, _ := m.Run(class([]code.Ins{{Op: code.Null}}, 1))
+	if o := m.Of(mustOwn(m.Of(none), "prototype")); o.Proto != 0 || m.Of(none).Proto != m.Protos[vm.FunctionProto] {
+		t.Errorf("extends null: %d", o.Proto)
+	}
+}
+
 func TestCallsOfTheMachine(t *testing.T) {
 	m, _, _ := run(t, "", wide, api.Script{All: true})
 	print := m.Env(m.World).Vals[3]
